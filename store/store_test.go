@@ -452,7 +452,7 @@ func TestNeed(t *testing.T) {
 	fill(t, s, 1)
 	appends(t, s, data(1), 0, api.ErrDown)
 	valid(t, s, 1, 2, 0, 1)
-	stands(t, s, "#xo", 12)
+	stands(t, s, "#xo", 11)
 	s.Need([]int{8})
 	valid(t, s, 0, 1)
 }

@@ -108,6 +108,8 @@ func (w *walk) appended(p api.Page) (int, api.Errno) {
 	if len(p.Body) > api.MaxBody {
 		return 0, api.ErrArg
 	}
+	p.Seq = w.seq
+	begun := false
 	for !w.isWorn() {
 		block := w.block()
 		if block < 0 {
@@ -116,8 +118,10 @@ func (w *walk) appended(p api.Page) (int, api.Errno) {
 		if w.down {
 			return 0, api.ErrDown
 		}
-		p.Seq = w.seq
-		w.seq++
+		if !begun {
+			begun = true
+			w.seq++
+		}
 		s, _ := page.Write(p)
 		at := block*w.g.Pages + len(w.texts[block])
 		m := w.hit()
@@ -355,22 +359,40 @@ func TestWalks(t *testing.T) {
 	}
 }
 
-// 11.5: sequence numbers rise, also over losses of power and stores that are opened anew: no two pages that can be read have the same one.
+// 11.5: sequence numbers rise, also over losses of power and stores that are opened anew: pages that can be read and have the same one are the same page, and all but one stand in blocks that went bad with it.
 func TestNumbersRise(t *testing.T) {
+	twice := 0
 	for seed := range 20 {
 		w := newWalk(t, 100+seed)
+		// Early on a block goes bad that keeps the page.
+		w.waits = []api.Mishap{{At: 1 + seed, Kind: api.ProgramFail, Keep: api.PageBytes}}
+		w.n.Plan(w.waits)
 		for range 800 {
 			w.step()
 			if w.d.below(5) == 0 {
 				w.up()
 			}
-			seen := map[int]bool{}
+			seen := map[int]api.Page{}
+			good := map[int]int{}
 			for _, f := range w.found() {
-				if seen[f.P.Seq] {
+				p, ok := seen[f.P.Seq]
+				if ok && p != f.P {
 					t.Fatalf("the walk %d: two pages of the number %d", seed, f.P.Seq)
 				}
-				seen[f.P.Seq] = true
+				if ok {
+					twice++
+				}
+				seen[f.P.Seq] = f.P
+				if !w.bad[f.At/w.g.Pages] {
+					good[f.P.Seq]++
+				}
+				if good[f.P.Seq] > 1 {
+					t.Fatalf("the walk %d: the number %d in two good blocks", seed, f.P.Seq)
+				}
 			}
 		}
+	}
+	if twice == 0 {
+		t.Error("no page was left whole in a block that went bad")
 	}
 }
